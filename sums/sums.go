@@ -1,0 +1,34 @@
+// Package sums: the short sums by which the book holds what stands in it.
+package sums
+
+import "treehead/api"
+
+const digits = "0123456789abcdef"
+
+// Number is that of the text that the parts make one behind the other.
+// The parts are never joined: a very long text would be copied for nothing.
+func Number(parts ...string) int {
+	n := 1
+	for _, part := range parts {
+		for i := range len(part) {
+			n = (n*api.Factor + int(part[i]) + 1) % api.Modulus
+		}
+	}
+	return n
+}
+
+// Of is the sum of the text that the parts make one behind the other.
+func Of(parts ...string) string {
+	return written(Number(parts...))
+}
+
+// written always gives four digits, because sums stand side by side in the
+// texts of which further sums are taken, with nothing between them.
+func written(n int) string {
+	var text [4]byte
+	for i := len(text) - 1; i >= 0; i-- {
+		text[i] = digits[n%len(digits)]
+		n /= len(digits)
+	}
+	return string(text[:])
+}

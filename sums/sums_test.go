@@ -1,0 +1,63 @@
+package sums
+
+import (
+	"fmt"
+	"strings"
+	"testing"
+)
+
+func TestNumber(t *testing.T) {
+	for text, want := range map[string]int{
+		"":         1,
+		"E":        333,
+		"\x00":     264,
+		"\xff":     519,
+		"\xea\x42": 65520,
+		"\xea\x43": 0,
+		"\xea\x44": 1,
+	} {
+		if got := Number(text); got != want {
+			t.Errorf("Number(%q) = %d, want %d", text, got, want)
+		}
+	}
+}
+
+func TestNumberGoesOnAcrossParts(t *testing.T) {
+	text := "any text, é\x00\xff too"
+	whole := Number(text)
+	for cut := range len(text) + 1 {
+		if got := Number(text[:cut], "", text[cut:]); got != whole {
+			t.Errorf("cut at %d: %d, want %d", cut, got, whole)
+		}
+	}
+	if got := Number(strings.Split(text, "")...); got != whole {
+		t.Errorf("cut into characters: %d, want %d", got, whole)
+	}
+	if got := Number(); got != 1 {
+		t.Errorf("Number() = %d, want 1", got)
+	}
+}
+
+func TestWrittenHasFourDigits(t *testing.T) {
+	for n := range 65521 {
+		if got, want := written(n), fmt.Sprintf("%04x", n); got != want {
+			t.Fatalf("written(%d) = %q, want %q", n, got, want)
+		}
+	}
+}
+
+func TestOf(t *testing.T) {
+	for text, want := range map[string]string{
+		"E":                          "014d",
+		"treehead":                   "dc43",
+		"\xea\x43":                   "0000",
+		"\xea\x42":                   "fff0",
+		strings.Repeat("\xff", 1000): "9954",
+		strings.Repeat("\x00", 1000): "a748",
+		"\xc3\xa9":                   "d846",
+	} {
+		if got := Of(text); got != want {
+			t.Errorf("Of(%.20q) = %q, want %q", text, got, want)
+		}
+	}
+}
