@@ -1,9 +1,16 @@
 // Package sums: the short sums by which the book holds what stands in it.
 package sums
 
-import "treehead/api"
+import (
+	"strings"
 
-const digits = "0123456789abcdef"
+	"treehead/api"
+)
+
+const (
+	digits = "0123456789abcdef"
+	width  = 4
+)
 
 // Number is that of the text that the parts make one behind the other.
 // The parts are never joined: a very long text would be copied for nothing.
@@ -22,10 +29,24 @@ func Of(parts ...string) string {
 	return written(Number(parts...))
 }
 
+// Is tells whether a text is a sum by its form alone: the few from Modulus on,
+// which no text has, are sums too.
+func Is(text string) bool {
+	if len(text) != width {
+		return false
+	}
+	for i := range len(text) {
+		if strings.IndexByte(digits, text[i]) < 0 {
+			return false
+		}
+	}
+	return true
+}
+
 // written always gives four digits, because sums stand side by side in the
 // texts of which further sums are taken, with nothing between them.
 func written(n int) string {
-	var text [4]byte
+	var text [width]byte
 	for i := len(text) - 1; i >= 0; i-- {
 		text[i] = digits[n%len(digits)]
 		n /= len(digits)

@@ -61,3 +61,25 @@ func TestOf(t *testing.T) {
 		}
 	}
 }
+
+func TestIs(t *testing.T) {
+	for n := range 65536 {
+		if text := fmt.Sprintf("%04x", n); !Is(text) {
+			t.Fatalf("%q is no sum", text)
+		}
+	}
+	for _, text := range []string{"", "0", "000", "00000", "ABCD", "000g", "/000", ":000", "`000", "@000", "0 00", "+000", "é00", "\x00\x00\x00\x00", strings.Repeat("0", 1000000)} {
+		if Is(text) {
+			t.Errorf("%.20q is a sum", text)
+		}
+	}
+	for b := range 256 {
+		digit := string([]byte{byte(b)})
+		want := b >= '0' && b <= '9' || b >= 'a' && b <= 'f'
+		for at := range 4 {
+			if text := "0000"[:at] + digit + "0000"[at+1:]; Is(text) != want {
+				t.Errorf("Is(%q) = %v", text, !want)
+			}
+		}
+	}
+}

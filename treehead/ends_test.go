@@ -1,6 +1,7 @@
 package treehead_test
 
 import (
+	"slices"
 	"strings"
 	"testing"
 
@@ -16,9 +17,18 @@ func anyRows() [][]string {
 	return rows
 }
 
-func checkAnswer(t *testing.T, name string, empty bool, err api.Errno) {
+func anyNumbers() []int { return append([]int{0, 1, 2, 3, 31, 32, 33, 39, 40}, farNumbers...) }
+
+// anyTexts has right ones too, so that the calls go on as far as they can.
+func anyTexts() []string {
+	good := signed(5, 9, 3, "c016")
+	return []string{"", "H", "V", "é", "c016", "ffff", "ABCD", good, good[:10], good + "x", "V" + good + signed(5, 10, 3, "d016"), strings.Repeat("H", 11), strings.Repeat("V", 23), strings.Repeat("\xff", 5000000)}
+}
+
+// checkAnswer takes the errors that the call may answer.
+func checkAnswer(t *testing.T, name string, empty bool, err api.Errno, may ...api.Errno) {
 	t.Helper()
-	if err != api.OK && err != api.ErrArg {
+	if err != api.OK && !slices.Contains(may, err) {
 		t.Errorf("P1: %s answers the error %d", name, err)
 	}
 	if err != api.OK && !empty {
@@ -27,19 +37,64 @@ func checkAnswer(t *testing.T, name string, empty bool, err api.Errno) {
 }
 
 // A panic ends the test run, so it is enough to have called.
-func TestP1EveryCallEndsAtAnything(t *testing.T) {
-	numbers := append([]int{0, 1, 2, 3, 31, 32, 33, 39, 40}, farNumbers...)
+func TestP1EveryCallOfRowsEndsAtAnything(t *testing.T) {
 	for _, leaves := range anyRows() {
 		if sum := treehead.Sum(leaves...); len(sum) != 4 {
 			t.Errorf("P1: Sum = %q", sum)
 		}
 		root, err := treehead.Root(leaves...)
-		checkAnswer(t, "Root", root == "", err)
-		for _, number := range numbers {
+		checkAnswer(t, "Root", root == "", err, api.ErrArg)
+		for _, number := range anyNumbers() {
 			path, err := treehead.Include(leaves, number)
-			checkAnswer(t, "Include", path == nil, err)
+			checkAnswer(t, "Include", path == nil, err, api.ErrArg)
 			path, err = treehead.Extend(leaves, number)
-			checkAnswer(t, "Extend", path == nil, err)
+			checkAnswer(t, "Extend", path == nil, err, api.ErrArg)
+		}
+	}
+}
+
+func anyPaths() [][]string {
+	return [][]string{nil, {}, {""}, {"0000"}, madePath(2), madePath(6), madePath(7), {"0000", "no sum"}, {strings.Repeat("0", 1000000)}, make([]string, 1000000)}
+}
+
+func TestP1EveryCallOfPathsEndsAtAnything(t *testing.T) {
+	numbers, texts := anyNumbers(), anyTexts()
+	for _, path := range anyPaths() {
+		for _, one := range numbers {
+			for _, two := range numbers {
+				for _, text := range texts {
+					err := treehead.Included("c016", api.Answer{Size: one, Index: two, Leaf: text, Path: path})
+					checkAnswer(t, "Included", true, err, api.ErrArg, api.ErrProof)
+					err = treehead.Included(text, api.Answer{Size: one, Index: two, Path: path})
+					checkAnswer(t, "Included", true, err, api.ErrArg, api.ErrProof)
+					err = treehead.Extended(api.Head{Size: one, Root: text}, api.Head{Size: two, Root: "c016"}, path)
+					checkAnswer(t, "Extended", true, err, api.ErrArg, api.ErrProof)
+					err = treehead.Extended(api.Head{Size: one, Root: "c016"}, api.Head{Size: two, Root: text}, path)
+					checkAnswer(t, "Extended", true, err, api.ErrArg, api.ErrProof)
+				}
+			}
+		}
+	}
+}
+
+func TestP1EveryCallOfSignaturesEndsAtAnything(t *testing.T) {
+	texts, nonces := anyTexts(), slices.Concat(noSecrets, anyNumbers())
+	for _, one := range slices.Concat(noSecrets, noKeys, []int{5, 1018, 1024}) {
+		key, err := treehead.Key(one)
+		checkAnswer(t, "Key", key == 0, err, api.ErrArg)
+		for _, text := range texts {
+			for _, two := range nonces {
+				signed, err := treehead.Sign(one, two, api.Head{Size: two, Root: text})
+				checkAnswer(t, "Sign", signed == "", err, api.ErrArg)
+			}
+			h, err := treehead.Open(one, text)
+			checkAnswer(t, "Open", h == api.Head{}, err, api.ErrKey, api.ErrBytes, api.ErrSign)
+			err = treehead.Convicts(one, text)
+			checkAnswer(t, "Convicts", true, err, api.ErrKey, api.ErrBytes, api.ErrSign)
+			for _, other := range texts {
+				evidence, err := treehead.Evidence(one, text, other)
+				checkAnswer(t, "Evidence", evidence == "", err, api.ErrKey, api.ErrBytes, api.ErrSign, api.ErrOther, api.ErrSame)
+			}
 		}
 	}
 }

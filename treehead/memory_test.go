@@ -40,6 +40,41 @@ func TestP2NothingHandedInIsWrittenInto(t *testing.T) {
 	}
 }
 
+// spared has spare room behind it that is written full, see roomy.
+func spared(path []string) []string {
+	full := append(slices.Clone(path), "spare", "spare", "spare", "spare", "spare", "spare", "spare", "spare")
+	return full[:len(path)]
+}
+
+func TestP2NoPathHandedInIsWrittenInto(t *testing.T) {
+	everyGrowth(func(old, fresh api.Head, path []string) {
+		handed := spared(path)
+		for _, root := range []string{old.Root, "0000", "no sum"} {
+			treehead.Extended(api.Head{Size: old.Size, Root: root}, fresh, handed)
+			treehead.Included(root, api.Answer{Size: fresh.Size, Index: old.Size - 1, Leaf: "a", Path: handed})
+		}
+		if want := spared(path); !slices.Equal(handed[:len(path)+8], want[:len(path)+8]) {
+			t.Errorf("P2: a path from %d to %d that was handed in was written into: %q", old.Size, fresh.Size, handed[:len(path)+8])
+		}
+	})
+}
+
+func TestP2NoPathHandedInIsKept(t *testing.T) {
+	leaves := numbered(7)
+	a := answerOf(leaves, 2)
+	grown, _ := treehead.Extend(leaves, 3)
+	for range 2 {
+		checkIncluded(t, rootOf(leaves), a, api.OK)
+		checkExtended(t, headOf(leaves[:3]), headOf(leaves), grown, api.OK)
+	}
+	a.Path[0], grown[0] = grown[0], a.Path[0]
+	checkIncluded(t, rootOf(leaves), a, api.ErrProof)
+	checkExtended(t, headOf(leaves[:3]), headOf(leaves), grown, api.ErrProof)
+	a.Path[0], grown[0] = grown[0], a.Path[0]
+	checkIncluded(t, rootOf(leaves), a, api.OK)
+	checkExtended(t, headOf(leaves[:3]), headOf(leaves), grown, api.OK)
+}
+
 // scribble writes into a list and its spare room, as its owner may.
 func scribble(list []string) {
 	list = list[:cap(list)]
@@ -105,6 +140,14 @@ func TestP2AnswersHangOnArgumentsAlone(t *testing.T) {
 			path, err := treehead.Include(leaves, n-1)
 			if err != api.OK || foldLeaf(leaves[n-1], n-1, n, path) != rootOf(leaves) {
 				t.Errorf("P2: Include of %d leaves, beside others, = %q, %d", n, path, err)
+			}
+			if err := treehead.Included(rootOf(leaves), answerOf(leaves, n/2)); err != api.OK {
+				t.Errorf("P2: Included of %d leaves, beside others, = %d", n, err)
+			}
+			one, _ := treehead.Sign(n, 1, headOf(leaves))
+			two, _ := treehead.Sign(n, 2, api.Head{Size: n, Root: "0000"})
+			if found, err := treehead.Evidence(keyOf(n), one, two); err != api.OK || treehead.Convicts(keyOf(n), found) != api.OK {
+				t.Errorf("P2: Evidence of %d leaves, beside others, = %x, %d", n, found, err)
 			}
 		})
 	}

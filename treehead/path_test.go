@@ -86,8 +86,8 @@ func TestP5EveryGrowthsPathFoldsToBothRoots(t *testing.T) {
 			for size := 1; size <= n; size++ {
 				path, err := treehead.Extend(leaves, size)
 				old := rootOf(leaves[:size])
-				one, two := foldGrowth(old, size, n, path, true)
-				if err != api.OK || one != old || two != rootOf(leaves) {
+				one, two, ok := foldGrowth(old, size, n, path, true)
+				if err != api.OK || !ok || one != old || two != rootOf(leaves) {
 					t.Errorf("P5: Extend of %d leaves from %d = %q, %d", n, size, path, err)
 				}
 			}

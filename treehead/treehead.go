@@ -3,6 +3,7 @@ package treehead
 
 import (
 	"treehead/api"
+	"treehead/seals"
 	"treehead/sums"
 	"treehead/tree"
 )
@@ -35,25 +36,84 @@ func Extend(leaves []string, size int) ([]string, api.Errno) {
 }
 
 // Included checks that a leaf stands where an answer says (P6).
-func Included(root string, a api.Answer) api.Errno { return api.OK }
+func Included(root string, a api.Answer) api.Errno {
+	if !sums.Is(root) || !mayBeAnswer(a) {
+		return api.ErrArg
+	}
+	folded, ok := tree.FoldLeaf(a.Leaf, a.Index, a.Size, a.Path)
+	if !ok || folded != root {
+		return api.ErrProof
+	}
+	return api.OK
+}
 
 // Extended checks that one head is the beginning of another (P6).
-func Extended(old, fresh api.Head, path []string) api.Errno { return api.OK }
+func Extended(old, fresh api.Head, path []string) api.Errno {
+	if !seals.MayBeHead(old) || !seals.MayBeHead(fresh) || old.Size < 1 || old.Size > fresh.Size {
+		return api.ErrArg
+	}
+	first, second, ok := tree.FoldGrowth(old.Root, old.Size, fresh.Size, path)
+	if !ok || first != old.Root || second != fresh.Root {
+		return api.ErrProof
+	}
+	return api.OK
+}
 
 // Key is the key of a secret (P7).
-func Key(secret int) (int, api.Errno) { return 0, api.OK }
+func Key(secret int) (int, api.Errno) {
+	if !seals.IsSecret(secret) {
+		return 0, api.ErrArg
+	}
+	return seals.KeyOf(secret), api.OK
+}
 
 // Sign signs a head (P7).
-func Sign(secret, nonce int, h api.Head) (string, api.Errno) { return "", api.OK }
+func Sign(secret, nonce int, h api.Head) (string, api.Errno) {
+	if !seals.IsSecret(secret) || !seals.IsSecret(nonce) || !seals.MayBeHead(h) {
+		return "", api.ErrArg
+	}
+	return seals.Sign(secret, nonce, h).Text(), api.OK
+}
 
 // Open reads a signed head (P8).
-func Open(key int, signed string) (api.Head, api.Errno) { return api.Head{}, api.OK }
+func Open(key int, signed string) (api.Head, api.Errno) {
+	opened, err := open(key, signed)
+	return opened.Head, err
+}
 
 // Evidence makes evidence of two signed heads (P9).
-func Evidence(key int, one, two string) (string, api.Errno) { return "", api.OK }
+func Evidence(key int, one, two string) (string, api.Errno) {
+	first, err := open(key, one)
+	if err != api.OK {
+		return "", err
+	}
+	second, err := open(key, two)
+	if err != api.OK {
+		return "", err
+	}
+	if first.Head.Size != second.Head.Size {
+		return "", api.ErrOther
+	}
+	if first.Head.Root == second.Head.Root {
+		return "", api.ErrSame
+	}
+	return seals.Evidence(first, second), api.OK
+}
 
 // Convicts checks evidence (P9).
-func Convicts(key int, evidence string) api.Errno { return api.OK }
+func Convicts(key int, evidence string) api.Errno {
+	if !seals.IsKey(key) {
+		return api.ErrKey
+	}
+	one, two, ok := seals.ReadEvidence(evidence)
+	if !ok {
+		return api.ErrBytes
+	}
+	if !one.Right(key) || !two.Right(key) {
+		return api.ErrSign
+	}
+	return api.OK
+}
 
 // Clash shows where a sum failed (P10).
 func Clash(one, two api.Answer, path []string) (string, string, api.Errno) { return "", "", api.OK }
