@@ -43,6 +43,20 @@ func Is(text string) bool {
 	return true
 }
 
+// Clash is the first of some texts that has the sum of another, different one,
+// and the first such other one; both are empty, if there are none.
+func Clash(texts []string) (string, string) {
+	for i, text := range texts {
+		// Whatever stands ahead was asked already, and has no sum of another.
+		for _, other := range texts[i+1:] {
+			if other != text && Number(other) == Number(text) {
+				return text, other
+			}
+		}
+	}
+	return "", ""
+}
+
 // written always gives four digits, because sums stand side by side in the
 // texts of which further sums are taken, with nothing between them.
 func written(n int) string {

@@ -83,3 +83,24 @@ func TestIs(t *testing.T) {
 		}
 	}
 }
+
+func TestClash(t *testing.T) {
+	for _, c := range []struct {
+		texts         []string
+		first, second string
+	}{
+		{nil, "", ""},
+		{[]string{"a"}, "", ""},
+		{[]string{"a", "b", "a", "c", "b"}, "", ""},
+		{[]string{"\x01\x01", "\xfa\x23"}, "\x01\x01", "\xfa\x23"},
+		{[]string{"\xfa\x23", "\x01\x01"}, "\xfa\x23", "\x01\x01"},
+		{[]string{"\x01\x01", "\x01\x01", "\xfa\x23"}, "\x01\x01", "\xfa\x23"},
+		{[]string{"a", "x\x01\x01", "\x01\x01", "\xfa\x23", "x\xfa\x23"}, "x\x01\x01", "x\xfa\x23"},
+		{[]string{"\x01\x01\x01\x01", "\xfa\x23\x01\x01", "\x01\x01\xfa\x23"}, "\x01\x01\x01\x01", "\xfa\x23\x01\x01"},
+		{[]string{"", "\xea\x44"}, "", "\xea\x44"},
+	} {
+		if first, second := Clash(c.texts); first != c.first || second != c.second {
+			t.Errorf("Clash(%q) = %q, %q, want %q, %q", c.texts, first, second, c.first, c.second)
+		}
+	}
+}

@@ -32,17 +32,26 @@ func TestSides(t *testing.T) {
 	}
 }
 
+// checkFold takes no roots, if it may not fold.
+func checkFold(t *testing.T, name string, got Fold, ok bool, want ...string) {
+	t.Helper()
+	if ok != (len(want) > 0) || !slices.Equal(got.Roots, want) {
+		t.Errorf("%s = %q, %v, want %q", name, got.Roots, ok, want)
+	}
+	if !ok && got.Texts != nil {
+		t.Errorf("%s does not fold, but has the texts %q", name, got.Texts)
+	}
+}
+
 func TestFoldLeafUndoesLeafPath(t *testing.T) {
 	leaves := row("abcdefghijklmnopqrstuvwxyzABCDEFGHIJKLMN")
 	for n := 1; n <= len(leaves); n++ {
 		for index, leaf := range leaves[:n] {
 			path := LeafPath(leaves[:n], index)
-			if got, ok := FoldLeaf(leaf, index, n, path); !ok || got != Root(leaves[:n]) {
-				t.Errorf("FoldLeaf of %d of %d = %q, %v", index, n, got, ok)
-			}
-			if got, ok := FoldLeaf(leaf, index, n, append(path, "0000")); ok || got != "" {
-				t.Errorf("FoldLeaf of %d of %d, by a longer path, = %q, %v", index, n, got, ok)
-			}
+			got, ok := FoldLeaf(leaf, index, n, path)
+			checkFold(t, "FoldLeaf", got, ok, Root(leaves[:n]))
+			got, ok = FoldLeaf(leaf, index, n, append(path, "0000"))
+			checkFold(t, "FoldLeaf by a longer path", got, ok)
 		}
 	}
 }
@@ -52,29 +61,44 @@ func TestFoldGrowthUndoesGrowthPath(t *testing.T) {
 	for n := 1; n <= len(leaves); n++ {
 		for size := 1; size <= n; size++ {
 			path, old := GrowthPath(leaves[:n], size), Root(leaves[:size])
-			first, second, ok := FoldGrowth(old, size, n, path)
-			if !ok || first != old || second != Root(leaves[:n]) {
-				t.Errorf("FoldGrowth from %d to %d = %q, %q, %v", size, n, first, second, ok)
-			}
-			first, second, ok = FoldGrowth(old, size, n, append(path, "0000"))
-			if ok || first != "" || second != "" {
-				t.Errorf("FoldGrowth from %d to %d, by a longer path, = %q, %q, %v", size, n, first, second, ok)
-			}
+			got, ok := FoldGrowth(old, size, n, path)
+			checkFold(t, "FoldGrowth", got, ok, old, Root(leaves[:n]))
+			got, ok = FoldGrowth(old, size, n, append(path, "0000"))
+			checkFold(t, "FoldGrowth by a longer path", got, ok)
 		}
 	}
 }
 
 func TestFoldsAsWrittenOut(t *testing.T) {
-	if got, ok := FoldLeaf("b", 1, 3, roots("a", "c")); !ok || got != "c016" {
-		t.Errorf("FoldLeaf = %q, %v", got, ok)
-	}
-	if first, second, ok := FoldGrowth("709b", 2, 3, roots("c")); !ok || first != "709b" || second != "c016" {
-		t.Errorf("FoldGrowth = %q, %q, %v", first, second, ok)
-	}
+	got, ok := FoldLeaf("b", 1, 3, roots("a", "c"))
+	checkFold(t, "FoldLeaf", got, ok, "c016")
+	got, ok = FoldGrowth("709b", 2, 3, roots("c"))
+	checkFold(t, "FoldGrowth", got, ok, "709b", "c016")
 	// The old root is told by the path, and not taken from the caller.
-	first, second, ok := FoldGrowth("0000", 3, 4, roots("C", "D", "AB"))
-	if !ok || first != Root(row("ABC")) || second != Root(row("ABCD")) {
-		t.Errorf("FoldGrowth from 3 to 4 = %q, %q, %v", first, second, ok)
+	got, ok = FoldGrowth("0000", 3, 4, roots("C", "D", "AB"))
+	checkFold(t, "FoldGrowth from 3 to 4", got, ok, Root(row("ABC")), Root(row("ABCD")))
+}
+
+func TestFoldsTellTheTextsFromBelow(t *testing.T) {
+	of := func(rows ...string) string { return "N" + strings.Join(roots(rows...), "") }
+	for _, c := range []struct {
+		name string
+		fold func() (Fold, bool)
+		want []string
+	}{
+		{"a lone leaf", func() (Fold, bool) { return FoldLeaf("a", 0, 1, nil) }, []string{"La"}},
+		{"an empty leaf", func() (Fold, bool) { return FoldLeaf("", 0, 1, nil) }, []string{"L"}},
+		{"a leaf of three", func() (Fold, bool) { return FoldLeaf("b", 1, 3, roots("a", "c")) }, []string{"Lb", of("a", "b"), of("ab", "c")}},
+		{"the last of three", func() (Fold, bool) { return FoldLeaf("c", 2, 3, roots("ab")) }, []string{"Lc", of("ab", "c")}},
+		{"nothing new", func() (Fold, bool) { return FoldGrowth("0000", 3, 3, nil) }, nil},
+		{"from 2 to 3", func() (Fold, bool) { return FoldGrowth(Root(row("ab")), 2, 3, roots("c")) }, []string{of("ab", "c")}},
+		{"from 3 to 4", func() (Fold, bool) { return FoldGrowth("0000", 3, 4, roots("c", "d", "ab")) }, []string{of("c", "d"), of("ab", "c"), of("ab", "cd")}},
+		{"from 3 to 5", func() (Fold, bool) { return FoldGrowth("0000", 3, 5, roots("c", "d", "ab", "e")) }, []string{of("c", "d"), of("ab", "c"), of("ab", "cd"), of("abcd", "e")}},
+		{"from 6 to 7", func() (Fold, bool) { return FoldGrowth("0000", 6, 7, roots("ef", "g", "abcd")) }, []string{of("ef", "g"), of("abcd", "ef"), of("abcd", "efg")}},
+	} {
+		if got, ok := c.fold(); !ok || !slices.Equal(got.Texts, c.want) {
+			t.Errorf("%s: the texts are %q, %v, want %q", c.name, got.Texts, ok, c.want)
+		}
 	}
 }
 
@@ -83,12 +107,10 @@ func TestFoldsWantSums(t *testing.T) {
 		for at := range 3 {
 			path := roots("a", "b", "c")
 			path[at] = none
-			if got, ok := FoldLeaf("x", 0, 8, path); ok || got != "" {
-				t.Errorf("FoldLeaf by %q = %q, %v", path, got, ok)
-			}
-			if first, second, ok := FoldGrowth("0000", 3, 4, path); ok || first != "" || second != "" {
-				t.Errorf("FoldGrowth by %q = %q, %q, %v", path, first, second, ok)
-			}
+			got, ok := FoldLeaf("x", 0, 8, path)
+			checkFold(t, "FoldLeaf", got, ok)
+			got, ok = FoldGrowth("0000", 3, 4, path)
+			checkFold(t, "FoldGrowth", got, ok)
 		}
 	}
 }

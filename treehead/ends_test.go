@@ -98,3 +98,81 @@ func TestP1EveryCallOfSignaturesEndsAtAnything(t *testing.T) {
 		}
 	}
 }
+
+func TestP1ClashEndsAtAnything(t *testing.T) {
+	leaves := []string{"", "\x01\x01", "\xfa\x23", strings.Repeat("x", 30), strings.Repeat("x", 31), strings.Repeat("\xff", 5000000)}
+	numbers := append([]int{0, 1, 2, 3, 40}, farNumbers...)
+	for _, path := range anyPaths() {
+		for _, size := range numbers {
+			for _, index := range numbers {
+				for i, leaf := range leaves {
+					one := api.Answer{Size: size, Index: index, Leaf: leaf, Path: path}
+					two := api.Answer{Size: max(size, 2), Index: index, Leaf: leaves[(i+1)%len(leaves)], Path: path}
+					for _, c := range [][2]api.Answer{{one, two}, {two, one}, {one, one}} {
+						first, second, err := treehead.Clash(c[0], c[1], path)
+						checkAnswer(t, "Clash", first == "" && second == "", err, api.ErrArg, api.ErrProof, api.ErrSame)
+					}
+				}
+			}
+		}
+	}
+}
+
+func TestP1EveryCallOfAWatcherEndsAtAnything(t *testing.T) {
+	for _, key := range slices.Concat(noSecrets, noKeys, []int{5, 1018}) {
+		w, err := treehead.Watch(key)
+		checkAnswer(t, "Watch", w == nil, err, api.ErrKey)
+	}
+	texts, numbers := anyTexts(), anyNumbers()
+	for _, first := range []string{"", signed(5, 9, 0, "014d"), signed(5, 9, 3, "c016")} {
+		w := watch(t)
+		w.Update(first, nil)
+		for range 2 {
+			for _, path := range anyPaths() {
+				for _, text := range texts {
+					err := w.Update(text, path)
+					checkAnswer(t, "Update", true, err, api.ErrClosed, api.ErrBytes, api.ErrSign, api.ErrOld, api.ErrProof)
+					h, err := w.Head()
+					checkAnswer(t, "Head", h == api.Head{}, err, api.ErrNone)
+				}
+				for i, size := range numbers {
+					a := api.Answer{Size: size, Index: numbers[len(numbers)-1-i], Leaf: texts[i%len(texts)], Path: path}
+					err := w.Holds(a)
+					checkAnswer(t, "Holds", true, err, api.ErrClosed, api.ErrNone, api.ErrOther, api.ErrArg, api.ErrProof)
+				}
+			}
+			w.Close()
+		}
+	}
+}
+
+// An update that is refused must leave no trace: neither in the head, nor in
+// what is held, nor in what may come next.
+func TestP1RefusedUpdateChangesNothing(t *testing.T) {
+	leaves := numbered(9)
+	path, _ := treehead.Extend(leaves[:7], 4)
+	refused := []struct {
+		signed string
+		path   []string
+	}{
+		{"", nil},
+		{signed(6, 9, 7, rootOf(leaves[:7])), path},
+		{signedBook(leaves[:3]), nil},
+		{signedBook(leaves[:7]), nil},
+		{signedBook(leaves[:7]), path[1:]},
+		{signedBook(leaves[1:8]), path},
+		{signed(5, 9, 4, "0000"), nil},
+	}
+	for _, c := range refused {
+		w := watch(t)
+		w.show(t, signedBook(leaves[:4]), nil, api.OK)
+		for range 3 {
+			if err := w.Update(c.signed, c.path); err == api.OK {
+				t.Errorf("P11: Update(%x, %q) is not refused", c.signed, c.path)
+			}
+			w.checkHead(t)
+			w.ask(t, answerOf(leaves[:4], 3), api.OK)
+		}
+		w.show(t, signedBook(leaves[:7]), path, api.OK)
+	}
+}

@@ -4,6 +4,7 @@ import (
 	"slices"
 	"sync"
 	"testing"
+	"unsafe"
 
 	"treehead/api"
 	"treehead/treehead"
@@ -149,6 +150,124 @@ func TestP2AnswersHangOnArgumentsAlone(t *testing.T) {
 			if found, err := treehead.Evidence(keyOf(n), one, two); err != api.OK || treehead.Convicts(keyOf(n), found) != api.OK {
 				t.Errorf("P2: Evidence of %d leaves, beside others, = %x, %d", n, found, err)
 			}
+		})
+	}
+	group.Wait()
+}
+
+func unspoilt(t *testing.T, name string, handed, path []string) {
+	t.Helper()
+	if want := spared(path); !slices.Equal(handed[:len(path)+8], want[:len(path)+8]) {
+		t.Errorf("P2: %s wrote into a path that was handed in: %q", name, handed[:len(path)+8])
+	}
+}
+
+func TestP2NoPathHandedToClashIsWrittenInto(t *testing.T) {
+	for n := 1; n <= 20; n++ {
+		for m := 1; m <= n; m++ {
+			one, two, path := twoBooks(m, n, m/2)
+			onePath, twoPath := one.Path, two.Path
+			one.Path, two.Path = spared(onePath), spared(twoPath)
+			handed := spared(path)
+			checkClash(t, one, two, handed, "Lx\x01\x01y", "Lx\xfa\x23y", api.OK)
+			treehead.Clash(one, two, handed[:len(path)+1])
+			treehead.Clash(two, one, handed)
+			unspoilt(t, "Clash", handed, path)
+			unspoilt(t, "Clash", one.Path, onePath)
+			unspoilt(t, "Clash", two.Path, twoPath)
+		}
+	}
+}
+
+func TestP2NoPathHandedToAWatcherIsWrittenInto(t *testing.T) {
+	leaves := numbered(20)
+	for n := 2; n <= 20; n++ {
+		w := watch(t)
+		w.show(t, signedBook(leaves[:n/2]), nil, api.OK)
+		path, _ := treehead.Extend(leaves[:n], n/2)
+		handed := spared(path)
+		w.show(t, signedBook(leaves[1:n]), handed, w.model.with(signedBook(leaves[1:n]), handed))
+		w.show(t, signedBook(leaves[:n]), handed, api.OK)
+		unspoilt(t, "Update", handed, path)
+		a := answerOf(leaves[:n], n-1)
+		asked := a
+		asked.Path = spared(a.Path)
+		w.ask(t, asked, api.OK)
+		unspoilt(t, "Holds", asked.Path, a.Path)
+	}
+}
+
+// with is what an update would answer; the copy that it is called on is gone.
+func (m model) with(signed string, path []string) api.Errno { return m.update(signed, path) }
+
+func TestP2WatcherKeepsNothingTheCallerCanChange(t *testing.T) {
+	leaves := numbered(7)
+	w := watch(t)
+	w.show(t, signedBook(leaves[:3]), nil, api.OK)
+	path, _ := treehead.Extend(leaves, 3)
+	w.show(t, signedBook(leaves), path, api.OK)
+	scribble(path)
+	a := answerOf(leaves, 5)
+	w.ask(t, a, api.OK)
+	scribble(a.Path)
+	w.ask(t, a, api.ErrProof)
+	h, _ := w.Head()
+	h.Root, h.Size = "0000", 1
+	w.checkHead(t)
+	w.ask(t, answerOf(leaves, 5), api.OK)
+}
+
+// Bytes that are looked at as a text can be changed behind it.
+func TestP2WatcherKeepsNoTextHandedIn(t *testing.T) {
+	leaves := numbered(7)
+	bytes := []byte(signedBook(leaves))
+	w := watch(t)
+	w.update(signedBook(leaves), nil)
+	if err := w.Update(unsafe.String(&bytes[0], len(bytes)), nil); err != api.OK {
+		t.Errorf("P11: Update = %d", err)
+	}
+	clear(bytes)
+	w.checkHead(t)
+	w.ask(t, answerOf(leaves, 5), api.OK)
+}
+
+func TestP2WatchersDoNotTouchOneAnother(t *testing.T) {
+	leaves := numbered(9)
+	path, _ := treehead.Extend(leaves, 4)
+	one, two, closed, idle := watch(t), watch(t), watch(t), watch(t)
+	one.show(t, signedBook(leaves[:4]), nil, api.OK)
+	two.show(t, signedBook(leaves), nil, api.OK)
+	closed.shut(t)
+	one.show(t, signedBook(leaves), path, api.OK)
+	two.show(t, signedBook(leaves), path, api.ErrProof)
+	closed.show(t, signedBook(leaves), nil, api.ErrClosed)
+	idle.ask(t, answerOf(leaves, 2), api.ErrNone)
+	two.shut(t)
+	one.ask(t, answerOf(leaves, 2), api.OK)
+	two.ask(t, answerOf(leaves, 2), api.ErrClosed)
+	idle.show(t, signedBook(nil), nil, api.OK)
+	for _, w := range []*watched{one, two, closed, idle} {
+		w.checkHead(t)
+	}
+	later := watch(t)
+	later.ask(t, answerOf(leaves, 2), api.ErrNone)
+	later.show(t, signedBook(leaves[:1]), nil, api.OK)
+}
+
+func TestP2WatchersBesideOneAnother(t *testing.T) {
+	var group sync.WaitGroup
+	for n := 1; n <= 40; n++ {
+		group.Go(func() {
+			leaves := numbered(n)
+			w := watchKey(t, keyOf(n))
+			w.show(t, signed(n, 9, 1, rootOf(leaves[:1])), nil, api.OK)
+			path, _ := treehead.Extend(leaves, 1)
+			w.show(t, signed(n, 9, n, rootOf(leaves)), path, api.OK)
+			w.ask(t, answerOf(leaves, n/2), api.OK)
+			one, two, path := twoBooks((n+1)/2, n, n/3)
+			checkClash(t, one, two, path, "Lx\x01\x01y", "Lx\xfa\x23y", api.OK)
+			w.shut(t)
+			w.ask(t, answerOf(leaves, n/2), api.ErrClosed)
 		})
 	}
 	group.Wait()

@@ -40,8 +40,8 @@ func Included(root string, a api.Answer) api.Errno {
 	if !sums.Is(root) || !mayBeAnswer(a) {
 		return api.ErrArg
 	}
-	folded, ok := tree.FoldLeaf(a.Leaf, a.Index, a.Size, a.Path)
-	if !ok || folded != root {
+	folded, ok := foldAnswer(a)
+	if !ok || folded.Roots[0] != root {
 		return api.ErrProof
 	}
 	return api.OK
@@ -52,8 +52,7 @@ func Extended(old, fresh api.Head, path []string) api.Errno {
 	if !seals.MayBeHead(old) || !seals.MayBeHead(fresh) || old.Size < 1 || old.Size > fresh.Size {
 		return api.ErrArg
 	}
-	first, second, ok := tree.FoldGrowth(old.Root, old.Size, fresh.Size, path)
-	if !ok || first != old.Root || second != fresh.Root {
+	if _, ok := foldHeads(old, fresh, path); !ok {
 		return api.ErrProof
 	}
 	return api.OK
@@ -116,22 +115,19 @@ func Convicts(key int, evidence string) api.Errno {
 }
 
 // Clash shows where a sum failed (P10).
-func Clash(one, two api.Answer, path []string) (string, string, api.Errno) { return "", "", api.OK }
-
-// Watcher keeps the last head that was seen.
-type Watcher struct{}
-
-// Watch makes a watcher (P11).
-func Watch(key int) (*Watcher, api.Errno) { return nil, api.OK }
-
-// Update shows a watcher a signed head (P11).
-func (w *Watcher) Update(signed string, path []string) api.Errno { return api.OK }
-
-// Holds asks whether a leaf stands in what was seen (P11).
-func (w *Watcher) Holds(a api.Answer) api.Errno { return api.OK }
-
-// Head tells what was seen (P11).
-func (w *Watcher) Head() (api.Head, api.Errno) { return api.Head{}, api.OK }
-
-// Close closes a watcher (P11).
-func (w *Watcher) Close() {}
+func Clash(one, two api.Answer, path []string) (string, string, api.Errno) {
+	if !mayBeAnswer(one) || !mayBeAnswer(two) || one.Index != two.Index || one.Size > two.Size {
+		return "", "", api.ErrArg
+	}
+	texts, ok := foldAll(one, two, path)
+	if !ok {
+		return "", "", api.ErrProof
+	}
+	if one.Leaf == two.Leaf {
+		return "", "", api.ErrSame
+	}
+	// There always are two such: the folds meet in the roots, and two leaves
+	// cannot come to one root but by two texts of one sum.
+	first, second := sums.Clash(texts)
+	return first, second, api.OK
+}
